@@ -1,4 +1,5 @@
-// Package sample reads and writes expressions for the tests of the layers.
+// Package sample reads and writes expressions and modules for the tests of the
+// layers.
 package sample
 
 import (
@@ -29,6 +30,17 @@ func Expr(text string) (ast.Expr, bool) {
 		return ast.Expr{}, false
 	}
 	return Placed(list[0].Items[0].Exprs[1]), true
+}
+
+// Modules returns the modules that a text consists of, and whether it does. Their
+// positions are those in the text.
+func Modules(text string) ([]ast.Module, bool) {
+	tokens, _, err := lex.Lex(pre.Piece{Text: text, Pos: api.Pos{File: 1, Line: 1, Col: 1}})
+	if err != api.OK {
+		return nil, false
+	}
+	list, _, err := parse.Parse(tokens...)
+	return list, err == api.OK
 }
 
 // Placed returns e with a position of its own for each of its parts.

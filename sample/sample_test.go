@@ -48,3 +48,15 @@ func TestPlacedLeavesItsArgumentAlone(t *testing.T) {
 		t.Errorf("%v, %v", e, first)
 	}
 }
+
+func TestModulesHaveThePositionsOfTheText(t *testing.T) {
+	list, ok := sample.Modules("module m ();\n wire w; endmodule module n (); endmodule")
+	if !ok || len(list) != 2 || list[1].Name != "n" || list[0].Items[0].Pos != (api.Pos{File: 1, Line: 2, Col: 2}) {
+		t.Errorf("%v, %v", list, ok)
+	}
+	for _, text := range []string{"module", "\"", "module m (); endmodule m"} {
+		if list, ok := sample.Modules(text); ok || len(list) > 0 {
+			t.Errorf("%q: %v, %v", text, list, ok)
+		}
+	}
+}
