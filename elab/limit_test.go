@@ -126,15 +126,14 @@ func TestP14_5EndlessLoops(t *testing.T) {
 // TestP14_5DeepTrees: the depth of a tree is not limited.
 func TestP14_5DeepTrees(t *testing.T) {
 	const depth = 3000
-	mods := source(t, "module top (input a, output reg y); always @* y = a; if (1) begin : g localparam N = 1; end endmodule")
+	mods := source(t, "module top (input a, input clk, output reg y); always @(posedge clk) y <= a; if (1) begin : g localparam N = 1; end endmodule")
 	always, block := &mods[0].Items[0], &mods[0].Items[1]
+	condition := []ast.Expr{{Kind: ast.Name, Text: "a"}}
 	for range depth {
-		always.Body = []ast.Stmt{{Kind: ast.Block, Pos: always.Pos, Body: always.Body}}
-		always.Body = []ast.Stmt{{Kind: ast.If, Pos: always.Pos, Exprs: []ast.Expr{{Kind: ast.Name, Text: "a"}}, Body: []ast.Stmt{always.Body[0], always.Body[0]}}}[:1]
-		always.Body = always.Body[0].Body[:1]
+		branch := ast.Stmt{Kind: ast.If, Pos: always.Pos, Exprs: condition, Body: []ast.Stmt{always.Body[0], {Kind: ast.Null}}}
+		always.Body = []ast.Stmt{{Kind: ast.Block, Pos: always.Pos, Body: []ast.Stmt{branch}}}
 		inner := *block
-		inner.Items = []ast.Item{{Kind: ast.GenBlock, Text: "h", Pos: block.Pos, Items: block.Items[0].Items}}
-		block.Items = []ast.Item{{Kind: ast.GenBlock, Text: "g", Pos: block.Pos, Items: []ast.Item{inner}}}
+		block.Items = []ast.Item{{Kind: ast.GenBlock, Text: "h", Pos: block.Pos, Items: []ast.Item{inner}}}
 	}
 	if d, pos, err := elab.Elaborate(mods, "top"); err != api.OK || len(d.Procs) != 1 {
 		t.Errorf("P14.5: error %d at %v", err, pos)
