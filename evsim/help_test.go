@@ -77,18 +77,6 @@ func contents(d flat.Design, s *exec.State) string {
 	return text
 }
 
-// filled returns a state with values that are chosen.
-func filled(d flat.Design, pick sample.Choice) *exec.State {
-	s := exec.New(d)
-	for i, x := range d.Sigs {
-		s.SetSig(i, pick.Vec(x.Width))
-		for at := range x.Words {
-			s.SetWord(i, at, pick.Vec(x.Width))
-		}
-	}
-	return s
-}
-
 // somePicks returns picks that are chosen.
 func somePicks(pick sample.Choice) []int {
 	var list []int
@@ -98,15 +86,6 @@ func somePicks(pick sample.Choice) []int {
 			n = []int{-1 << 63, 1<<63 - 1, 1 << 40, -1 << 40}[pick(4)]
 		}
 		list = append(list, n)
-	}
-	return list
-}
-
-// someInputs returns values for the inputs of a design.
-func someInputs(d flat.Design, pick sample.Choice) []bv.Vec {
-	var list []bv.Vec
-	for _, sig := range d.Inputs {
-		list = append(list, pick.Vec(d.Sigs[sig].Width))
 	}
 	return list
 }

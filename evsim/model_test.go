@@ -156,7 +156,7 @@ func mustActAlike(t *testing.T, pick sample.Choice, m *model, s *evsim.Sim) {
 		}
 		mustAgree(t, "Step", m, s)
 	default:
-		ins := someInputs(m.Design, pick)
+		ins := pick.Ins(m.Design)
 		c, err := s.Cycle(ins, picks...)
 		for i, v := range ins {
 			m.set(m.Inputs[i], v)
@@ -176,7 +176,7 @@ func TestP16_2AnyDesign(t *testing.T) {
 		text := show(d)
 		var start *exec.State
 		if pick(3) > 0 {
-			start = filled(d, pick)
+			start = pick.State(d)
 		}
 		s, m := started(t, d, start), newModel(d, start)
 		mustAgree(t, "New", m, s)

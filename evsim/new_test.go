@@ -50,7 +50,7 @@ func TestP16_1New(t *testing.T) {
 func TestP16_1Start(t *testing.T) {
 	d := design(t, several)
 	pick := sample.Choice(rand.New(rand.NewPCG(16, 2)).IntN)
-	for _, start := range []*exec.State{exec.New(d), filled(d, pick), filled(d, pick)} {
+	for _, start := range []*exec.State{exec.New(d), pick.State(d), pick.State(d)} {
 		same := start.Clone()
 		s := started(t, d, start)
 		if !s.State().Same(same) || show(s.Active()) != "[0 1 3]" {
@@ -106,7 +106,7 @@ func TestP16_1DesignIsNotKept(t *testing.T) {
 		s, o := started(t, d, nil), started(t, copied, nil)
 		spoil(copied)
 		for range 3 {
-			ins, picks := someInputs(d, pick), somePicks(pick)
+			ins, picks := pick.Ins(d), somePicks(pick)
 			c, err := s.Cycle(ins, picks...)
 			otherC, otherErr := o.Cycle(ins, picks...)
 			if show(c) != show(otherC) || err != otherErr || s.Runs() != o.Runs() || !s.State().Same(o.State()) || show(s.Info()) != show(o.Info()) {

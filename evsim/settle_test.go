@@ -138,11 +138,11 @@ func TestP16_2Settled(t *testing.T) {
 	used := 0
 	for range 1000 {
 		d := pick.Design()
-		s := started(t, d, filled(d, pick))
+		s := started(t, d, pick.State(d))
 		for range 3 {
 			used += s.Settle(somePicks(pick)...)
 			mustBeSettled(t, d, s)
-			for i, v := range someInputs(d, pick) {
+			for i, v := range pick.Ins(d) {
 				if s.Set(d.Inputs[i], v) != api.OK {
 					t.Fatal("P16.1: an input")
 				}
@@ -215,9 +215,9 @@ func TestP16_2AnyTree(t *testing.T) {
 	for range 5000 {
 		d := pick.Design()
 		for range 1 + pick(4) {
-			disturb(pick, d)
+			pick.Disturb(d)
 		}
-		start := []*exec.State{nil, exec.New(flat.Design{}), filled(pick.Design(), pick)}[pick(3)]
+		start := []*exec.State{nil, exec.New(flat.Design{}), pick.State(pick.Design())}[pick(3)]
 		s, _, err := evsim.New(d, start)
 		if err != api.OK {
 			continue
@@ -225,34 +225,11 @@ func TestP16_2AnyTree(t *testing.T) {
 		accepted++
 		for range 2 {
 			s.Settle(somePicks(pick)...)
-			s.Cycle(someInputs(d, pick), somePicks(pick)...)
+			s.Cycle(pick.Ins(d), somePicks(pick)...)
 			s.Set(pick(10)-1, pick.Vec(1))
 		}
 	}
 	if accepted < 1000 {
 		t.Errorf("only %d designs are accepted", accepted)
-	}
-}
-
-// disturb changes something in a design, so that it may not be valid.
-func disturb(pick sample.Choice, d flat.Design) {
-	if len(d.Procs) == 0 {
-		return
-	}
-	list := d.Procs[pick(len(d.Procs))].Body
-	for {
-		x := &list[pick(len(list))]
-		if len(x.Body) > 0 && pick(2) == 0 {
-			list = x.Body
-			continue
-		}
-		e := &x.Value
-		for len(e.Args) > 0 && pick(2) == 0 {
-			e = &e.Args[pick(len(e.Args))]
-		}
-		numbers := []*int{&x.Target.Lo, &x.Target.Width, &e.Kind, &e.Op, &e.Width, &e.Sig, &e.Lo, &x.Kind}
-		odd := []int{0, 1, 2, 3, 5, 100, -1, 1 << 40, math.MinInt, math.MaxInt}
-		*numbers[pick(len(numbers))] = odd[pick(len(odd))]
-		return
 	}
 }

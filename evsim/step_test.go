@@ -171,8 +171,8 @@ func TestP16_3AnyPicks(t *testing.T) {
 	checked, failed := 0, 0
 	for range 500 {
 		d := pick.Design()
-		start := filled(d, pick)
-		cycles := [][]bv.Vec{someInputs(d, pick), someInputs(d, pick), someInputs(d, pick), someInputs(d, pick)}
+		start := pick.State(d)
+		cycles := [][]bv.Vec{pick.Ins(d), pick.Ins(d), pick.Ins(d), pick.Ins(d)}
 		for range 4 {
 			s, want := started(t, d, start), start.Clone()
 			for i, ins := range cycles {
@@ -205,10 +205,10 @@ func TestP16_3AnySettle(t *testing.T) {
 	pick := sample.Choice(rand.New(rand.NewPCG(16, 9)).IntN)
 	for range 500 {
 		d := pick.Design()
-		start := filled(d, pick)
+		start := pick.State(d)
 		s := started(t, d, start)
 		for range 6 {
-			for i, v := range someInputs(d, pick) {
+			for i, v := range pick.Ins(d) {
 				if pick(2) == 0 {
 					s.Set(d.Inputs[i], v)
 					start.SetSig(d.Inputs[i], v)

@@ -53,18 +53,6 @@ func contents(d flat.Design, s *exec.State) string {
 	return strings.Join(words, " ")
 }
 
-// filled returns a state with values that are chosen.
-func filled(d flat.Design, pick sample.Choice) *exec.State {
-	s := exec.New(d)
-	for i, x := range d.Sigs {
-		s.SetSig(i, pick.Vec(x.Width))
-		for at := range x.Words {
-			s.SetWord(i, at, pick.Vec(x.Width))
-		}
-	}
-	return s
-}
-
 // differing returns the signals that two states of a design do not have in
 // common.
 func differing(d flat.Design, a, b *exec.State) []int {

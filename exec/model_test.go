@@ -108,7 +108,7 @@ func TestP15_2AnyProcess(t *testing.T) {
 	for range 1000 {
 		d := pick.Design()
 		text := show(d)
-		s := filled(d, pick)
+		s := pick.State(d)
 		for _, p := range d.Procs {
 			before := s.Clone()
 			m := modelOf(d, s)
@@ -151,7 +151,7 @@ func TestP15_3AnyWrites(t *testing.T) {
 	pick := sample.Choice(rand.New(rand.NewPCG(15, 7)).IntN)
 	d := design(typed.Sig{Width: 2}, typed.Sig{Width: 3}, typed.Sig{Width: 2, Words: 2}, typed.Sig{Width: 1, Words: 1}, typed.Sig{Width: 128})
 	for range 20000 {
-		s := filled(d, pick)
+		s := pick.State(d)
 		var list []exec.Write
 		for range pick(8) {
 			sig := pick(len(d.Sigs))

@@ -35,7 +35,7 @@ func TestP15_1New(t *testing.T) {
 // TestP15_1Missing: signals, memories and words that do not exist.
 func TestP15_1Missing(t *testing.T) {
 	d := design(typed.Sig{Width: 4}, typed.Sig{Width: 5, Words: 3}, typed.Sig{Width: 128, Words: api.MaxWords})
-	s := filled(d, rand.New(rand.NewPCG(15, 1)).IntN)
+	s := sample.Choice(rand.New(rand.NewPCG(15, 1)).IntN).State(d)
 	for _, n := range []int{1, 2, 3, -1, math.MinInt, math.MaxInt} {
 		if v := s.Sig(n); v != (bv.Vec{}) {
 			t.Errorf("P15.1: signal %d: %s", n, v.Text())
@@ -92,7 +92,7 @@ func TestP15_1Set(t *testing.T) {
 
 func TestP15_1Errors(t *testing.T) {
 	d := design(typed.Sig{Width: 4}, typed.Sig{Width: 4, Words: 3}, typed.Sig{Width: 128}, typed.Sig{Width: 1, Words: api.MaxWords})
-	s := filled(d, rand.New(rand.NewPCG(15, 3)).IntN)
+	s := sample.Choice(rand.New(rand.NewPCG(15, 3)).IntN).State(d)
 	before := s.Clone()
 	for _, x := range []struct {
 		n    int
@@ -135,7 +135,7 @@ func TestP15_1Errors(t *testing.T) {
 func TestP15_1Clone(t *testing.T) {
 	d := design(sizes()...)
 	pick := sample.Choice(rand.New(rand.NewPCG(15, 4)).IntN)
-	s := filled(d, pick)
+	s := pick.State(d)
 	text := contents(d, s)
 	o := s.Clone()
 	if !o.Same(s) || contents(d, o) != text {
@@ -166,7 +166,7 @@ func TestP15_1Clone(t *testing.T) {
 // TestP15_1Same: each bit counts.
 func TestP15_1Same(t *testing.T) {
 	d := design(sizes()...)
-	s := filled(d, rand.New(rand.NewPCG(15, 5)).IntN)
+	s := sample.Choice(rand.New(rand.NewPCG(15, 5)).IntN).State(d)
 	o := s.Clone()
 	mustDiffer := func(i, bit int, old bv.Vec, set func(v bv.Vec) api.Errno) {
 		flipped, _ := bv.New(1, 1)
