@@ -1,6 +1,7 @@
 package sample
 
 import (
+	"math"
 	"strconv"
 
 	"sluicegate/bv"
@@ -141,4 +142,27 @@ func (pick Choice) Values(n *net.Net) net.Values {
 		v.Words = append(v.Words, words)
 	}
 	return v
+}
+
+// DisturbNet changes a number in a netlist, so that it may not be valid.
+func (pick Choice) DisturbNet(n *net.Net) {
+	x := &n.Nodes[pick(len(n.Nodes))]
+	numbers := []*int{&x.Kind, &x.Op, &x.Width, &x.Num, &x.Lo}
+	for i := range x.Args {
+		numbers = append(numbers, &x.Args[i])
+	}
+	for i := range n.Regs {
+		numbers = append(numbers, &n.Regs[i].Width, &n.Regs[i].Next)
+	}
+	for i := range n.Mems {
+		m := &n.Mems[i]
+		numbers = append(numbers, &m.Width, &m.Words)
+		for j := range m.Ports {
+			numbers = append(numbers, &m.Ports[j].On, &m.Ports[j].At, &m.Ports[j].Val)
+		}
+	}
+	for i := range n.Asserts {
+		numbers = append(numbers, &n.Asserts[i].On, &n.Asserts[i].Is)
+	}
+	*numbers[pick(len(numbers))] = pick.from(0, 1, 2, 3, 5, 100, -1, 1<<40, math.MinInt, math.MaxInt)
 }

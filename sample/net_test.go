@@ -70,3 +70,18 @@ func TestValuesFit(t *testing.T) {
 		}
 	}
 }
+
+func TestDisturbNetChangesANet(t *testing.T) {
+	pick := sample.Choice(rand.New(rand.NewPCG(3, 3)).IntN)
+	errors := map[api.Errno]int{}
+	for range 2000 {
+		n := pick.Net()
+		pick.DisturbNet(n)
+		errors[n.Check()]++
+	}
+	for _, err := range []api.Errno{api.OK, api.ErrInval, api.ErrRange, api.ErrWidth} {
+		if errors[err] < 150 {
+			t.Errorf("error %d only %d times", err, errors[err])
+		}
+	}
+}

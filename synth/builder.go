@@ -6,36 +6,29 @@ import (
 	"sluicegate/api"
 	"sluicegate/bv"
 	"sluicegate/flat"
+	"sluicegate/maker"
 	"sluicegate/net"
 	"sluicegate/typed"
 )
 
-const (
-	// none is the node of a signal without a value, or of a memory.
-	none = -1
-	// always is the condition of statements that are not in an If.
-	always = -1
-)
-
-// builder makes the netlist of a design. It keeps the first error, after which no
-// nodes are added.
+// builder makes the netlist of a design. A signal without a value, and a memory,
+// has the node maker.None.
 type builder struct {
+	maker.Maker
 	design            flat.Design
 	roles, regs, mems []int
-	net               *net.Net
 	numbers           map[int]int // of the memories
 	now               []int       // the node of each signal at the current statement
 	later             []int       // the node that each Reg will receive
-	err               api.Errno
 }
 
 // newBuilder returns a builder that has no nodes but those of inputs and
 // registers.
 func newBuilder(d flat.Design, roles []int) *builder {
-	b := &builder{design: d, roles: roles, net: &net.Net{}, numbers: map[int]int{}}
+	b := &builder{Maker: maker.Maker{Net: &net.Net{}}, design: d, roles: roles, numbers: map[int]int{}}
 	b.regs = b.with(func(role int) bool { return role == flat.Reg || role == flat.Temp })
 	b.mems = b.with(func(role int) bool { return role == flat.Memory })
-	b.now = slices.Repeat([]int{none}, len(d.Sigs))
+	b.now = slices.Repeat([]int{maker.None}, len(d.Sigs))
 	b.addInputs()
 	b.addRegs()
 	b.addMems()
@@ -46,12 +39,12 @@ func newBuilder(d flat.Design, roles []int) *builder {
 func (b *builder) addInputs() {
 	for i, sig := range b.design.Inputs {
 		if !b.has(sig) {
-			b.fail(api.ErrRange)
+			b.Fail(api.ErrRange)
 			return
 		}
 		x := b.design.Sigs[sig]
-		b.net.Inputs = append(b.net.Inputs, net.Pin{Name: x.Name, Width: x.Width})
-		b.now[sig] = b.add(net.Node{Kind: net.In, Width: x.Width, Num: i})
+		b.Net.Inputs = append(b.Net.Inputs, net.Pin{Name: x.Name, Width: x.Width})
+		b.now[sig] = b.Add(net.Node{Kind: net.In, Width: x.Width, Num: i})
 	}
 }
 
@@ -60,17 +53,16 @@ func (b *builder) addRegs() {
 	for _, x := range b.design.Starts {
 		first[x.Sig] = x.Val
 	}
-	for i, sig := range b.regs {
+	for _, sig := range b.regs {
 		x := b.design.Sigs[sig]
-		b.net.Regs = append(b.net.Regs, net.Register{Name: x.Name, Width: x.Width, First: first[sig]})
-		b.now[sig] = b.add(net.Node{Kind: net.Reg, Width: x.Width, Num: i})
+		b.now[sig] = b.Register(net.Register{Name: x.Name, Width: x.Width, First: first[sig]})
 	}
 }
 
 func (b *builder) addMems() {
 	for i, sig := range b.mems {
 		x := b.design.Sigs[sig]
-		b.net.Mems = append(b.net.Mems, net.Mem{Name: x.Name, Width: x.Width, Words: x.Words})
+		b.Net.Mems = append(b.Net.Mems, net.Mem{Name: x.Name, Width: x.Width, Words: x.Words})
 		b.numbers[sig] = i
 	}
 }
@@ -88,33 +80,6 @@ func (b *builder) with(isMeant func(role int) bool) []int {
 
 func (b *builder) has(sig int) bool { return sig >= 0 && sig < len(b.design.Sigs) }
 
-func (b *builder) fail(err api.Errno) {
-	if b.err == api.OK {
-		b.err = err
-	}
-}
-
-// add returns the number of a node, or none after an error.
-func (b *builder) add(x net.Node) int {
-	if b.err != api.OK {
-		return none
-	}
-	i, err := b.net.Add(x)
-	if err != api.OK {
-		b.fail(err)
-		return none
-	}
-	return i
-}
-
-// width returns the width of a node, or 0 if there is none.
-func (b *builder) width(i int) int {
-	if i == none {
-		return 0
-	}
-	return b.net.Nodes[i].Width
-}
-
 // nodeKinds are the kinds of nodes that compute what expressions of these kinds
 // do. There is none for a Ref, which is the node of its signal.
 var nodeKinds = [...]int{
@@ -125,13 +90,13 @@ var nodeKinds = [...]int{
 // expr returns the node of an expression at the current statement.
 func (b *builder) expr(e typed.Expr) int {
 	switch {
-	case b.err != api.OK:
-		return none
+	case b.Err != api.OK:
+		return maker.None
 	case e.Kind == typed.Ref:
 		return b.signal(e.Sig)
 	case e.Kind < 0 || e.Kind >= len(nodeKinds):
-		b.fail(api.ErrInval)
-		return none
+		b.Fail(api.ErrInval)
+		return maker.None
 	}
 	args := make([]int, len(e.Args))
 	for i, arg := range e.Args {
@@ -141,15 +106,15 @@ func (b *builder) expr(e typed.Expr) int {
 	if e.Kind == typed.Word {
 		x.Num = b.memory(e.Sig)
 	}
-	return b.add(x)
+	return b.Add(x)
 }
 
-// signal returns the node of a signal at the current statement. It may be none
+// signal returns the node of a signal at the current statement. It may be None
 // only if the design is not valid, and is then rejected wherever it is used.
 func (b *builder) signal(sig int) int {
 	if !b.has(sig) {
-		b.fail(api.ErrRange)
-		return none
+		b.Fail(api.ErrRange)
+		return maker.None
 	}
 	return b.now[sig]
 }
@@ -158,7 +123,7 @@ func (b *builder) signal(sig int) int {
 func (b *builder) memory(sig int) int {
 	i, found := b.numbers[sig]
 	if !found {
-		b.fail(api.ErrRange)
+		b.Fail(api.ErrRange)
 	}
 	return i
 }
