@@ -3,7 +3,6 @@ package memabs
 import (
 	"math/bits"
 	"slices"
-	"strconv"
 
 	"sluicegate/api"
 	"sluicegate/bv"
@@ -15,22 +14,21 @@ import (
 // number of cycles.
 type builder struct {
 	maker.Maker
-	old       *net.Net
-	cycles    int
-	nodes     []int            // the node for each node of old
-	words     [][]int          // the nodes of the initial words of each memory
-	histories [][]write        // of each memory; empty until it is read
-	pasts     map[source][]int // the nodes for what a source was, the last cycle first
-	kept      []source         // those for which there are registers
+	old      *net.Net
+	cycles   int
+	nodes    []int            // the node for each node of old
+	mems     []memory         // for each memory of old
+	hasBegun int              // whether there was a step; None until it is needed
+	pasts    map[source][]int // the nodes for what a source was, the last cycle first
+	kept     []source         // those for which there are registers
 }
 
 // newBuilder returns a builder without nodes, in which the registers of old are
 // the first ones.
 func newBuilder(old *net.Net, cycles int) *builder {
-	b := &builder{old: old, cycles: cycles, pasts: map[source][]int{}}
+	b := &builder{old: old, cycles: cycles, hasBegun: maker.None, pasts: map[source][]int{}}
 	b.Net = &net.Net{Inputs: slices.Clone(old.Inputs), Regs: slices.Clone(old.Regs)}
 	b.nodes = slices.Repeat([]int{maker.None}, len(old.Nodes))
-	b.histories = make([][]write, len(old.Mems))
 	return b
 }
 
@@ -47,18 +45,19 @@ func (b *builder) regs() []int {
 // their numbers.
 func (b *builder) addWords() [][]int {
 	var first [][]int
-	for _, m := range b.old.Mems {
+	reads := b.reads()
+	for i, m := range b.old.Mems {
 		var regs, nodes []int
 		for at := range m.Words {
 			if b.Err != api.OK {
 				return nil
 			}
 			regs = append(regs, len(b.Net.Regs))
-			node := b.Register(net.Register{Name: m.Name + "[" + strconv.Itoa(at) + "]", Width: m.Width})
+			node := b.Register(net.Register{Name: wordName(m, at), Width: m.Width})
 			b.receive(node, node)
 			nodes = append(nodes, node)
 		}
-		first, b.words = append(first, regs), append(b.words, nodes)
+		first, b.mems = append(first, regs), append(b.mems, newMemory(m, nodes, reads[i]))
 	}
 	return first
 }
@@ -92,6 +91,9 @@ func (b *builder) addNodes() {
 // connect makes everything that is no node refer to nodes.
 func (b *builder) connect() {
 	b.keep()
+	for i := range b.mems {
+		b.keepWords(&b.mems[i])
+	}
 	for i, x := range b.old.Regs {
 		b.Net.Regs[i].Next = b.nodes[x.Next]
 	}
@@ -103,29 +105,39 @@ func (b *builder) connect() {
 	}
 }
 
-// read returns the word of a memory with the number at: what the last write to it
-// left there, or else its initial value.
+// read returns the word of a memory with the number at, or 0 if there is none.
 func (b *builder) read(mem, at int) int {
-	m := b.old.Mems[mem]
+	m := &b.mems[mem]
 	if m.Words < 1 {
 		return b.Number(m.Width, 0)
 	}
-	word := b.initial(b.words[mem], at)
-	for list := b.history(mem); len(list) > 0; {
-		count := alike(list)
-		isSame := b.isAmong(list[:count], b.place(at, m.Words))
-		word = b.Choose(b.Both(list[0][performed], isSame), list[0][value], word)
-		list = list[count:]
-	}
+	word := b.existing(m, at)
 	if isCertain(b.Net.Nodes[at], m.Words) {
 		return word
 	}
 	return b.Choose(b.exists(at, m.Words), word, b.Number(m.Width, 0))
 }
 
-// initial returns the one of the nodes of words with the number at, or any of them
-// if there is none. If at has few bits, it cannot be the number of all words.
-func (b *builder) initial(words []int, at int) int {
+// existing returns the word of a memory with the number at, if there is one: what
+// its register has or, if it has a history, what the last write to the word left
+// there, or else its initial value.
+func (b *builder) existing(m *memory, at int) int {
+	if m.isSmall {
+		return b.among(b.words(m), at)
+	}
+	word := b.among(m.first, at)
+	for list := b.history(m); len(list) > 0; {
+		count := alike(list)
+		isSame := b.isAmong(list[:count], b.place(at, m.Words))
+		word = b.Choose(b.Both(list[0][performed], isSame), list[0][value], word)
+		list = list[count:]
+	}
+	return word
+}
+
+// among returns the one of the nodes of words with the number at, or any of them if
+// there is none. If at has few bits, it cannot be the number of all words.
+func (b *builder) among(words []int, at int) int {
 	x := b.Net.Nodes[at]
 	if x.Kind == net.Const {
 		return words[x.Val.Num(len(words)-1)]

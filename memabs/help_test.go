@@ -71,6 +71,11 @@ func word(t *testing.T, n *net.Net, mem, at int) int {
 	return add(t, n, net.Node{Kind: net.Word, Width: n.Mems[mem].Width, Num: mem, Args: []int{at}})
 }
 
+// out makes a node an output.
+func out(n *net.Net, node int) {
+	n.Outs = append(n.Outs, net.Out{Name: fmt.Sprint("o", len(n.Outs)), Node: node})
+}
+
 // stored returns a netlist with a memory that an input is written to, at the
 // address and under the condition that other inputs are, and that is read at an
 // address that is an input: m[at] <= val if on, and y = m[from].

@@ -57,11 +57,11 @@ func (b *builder) isAmong(list []write, at int) int {
 
 // history returns the writes to a memory in previous cycles, in the order in which
 // they were performed.
-func (b *builder) history(mem int) []write {
-	if b.histories[mem] == nil {
-		b.histories[mem] = b.newHistory(b.old.Mems[mem])
+func (b *builder) history(m *memory) []write {
+	if m.writes == nil {
+		m.writes = b.newHistory(m.Mem)
 	}
-	return b.histories[mem]
+	return m.writes
 }
 
 func (b *builder) newHistory(m net.Mem) []write {

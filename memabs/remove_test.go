@@ -167,16 +167,68 @@ func TestP20_1Limit(t *testing.T) {
 
 // TestP20_1ManyPorts: more writes and reads than there is room for.
 func TestP20_1ManyPorts(t *testing.T) {
+	for _, words := range []int{1, 2, 3, 64} {
+		n := stored(t, 4, words, 2, 2)
+		p := n.Mems[0].Ports[0]
+		for range 8000 {
+			n.Mems[0].Ports = append(n.Mems[0].Ports, net.Port{On: input(t, n, 1), At: p.At, Val: p.Val})
+		}
+		mustReject(t, "ports", n, 1, api.ErrLimit)
+		mustReject(t, "ports", n, 12, api.ErrLimit)
+		mustRemove(t, n, 0)
+	}
 	n := stored(t, 4, 4, 2, 2)
-	n.Mems[0].Ports = slices.Repeat(n.Mems[0].Ports, 100000)
-	mustReject(t, "ports", n, 1, api.ErrLimit)
-	mustReject(t, "ports", n, 12, api.ErrLimit)
-	mustRemove(t, n, 0)
-	n = stored(t, 4, 4, 2, 2)
 	for i := range 18000 {
 		word(t, n, 0, number(t, n, vec(100, uint64(i/2))))
 	}
 	mustReject(t, "reads", n, 12, api.ErrLimit)
+}
+
+// TestP20_1Overwritten: a port needs nothing if a later one overwrites whatever it
+// writes.
+func TestP20_1Overwritten(t *testing.T) {
+	for _, words := range []int{1, 2, 3, 64} {
+		n := stored(t, 4, words, 2, 2)
+		p := n.Mems[0].Ports[0]
+		other := net.Port{On: p.On, At: p.At, Val: number(t, n, vec(4, 11))}
+		want := showResult(mustRemove(t, n, 5))
+		n.Mems[0].Ports = slices.Repeat([]net.Port{other, p, p}, 10000)
+		if r := mustRemove(t, n, 5); showResult(r) != want {
+			t.Errorf("P20.1: %d nodes, %d registers", len(r.Net.Nodes), len(r.Net.Regs))
+		}
+		n.Mems[0].Ports = []net.Port{p, {On: p.At, At: p.At, Val: p.Val}, other, {On: p.On, At: p.On, Val: other.Val}, p, {On: p.At, At: p.On, Val: p.Val}, other}
+		r := mustRemove(t, n, 5)
+		pick := chooser(20, 16)
+		for range 50 {
+			mustAgree(t, n, r, stateOf(pick.Values(n)), inputs(pick, n, 5)...)
+		}
+	}
+}
+
+// TestP20_1Registers: a memory of few words that is often read or written has
+// registers for its words instead of a history.
+func TestP20_1Registers(t *testing.T) {
+	for _, x := range []struct{ words, ports, reads, want int }{
+		{1, 1, 1, 1}, {2, 1, 1, 2}, {3, 1, 1, 7 * 3}, {3, 1, 2, 3}, {4, 2, 2, 4}, {9, 4, 4, 9}, {10, 4, 4, 7 * 6},
+	} {
+		n := stored(t, 4, x.words, 4, 4)
+		p := n.Mems[0].Ports[0]
+		for range x.ports - 1 {
+			n.Mems[0].Ports = append(n.Mems[0].Ports, net.Port{On: input(t, n, 1), At: p.At, Val: p.Val})
+		}
+		for range x.reads - 1 {
+			out(n, word(t, n, 0, input(t, n, 4)))
+		}
+		if got := len(mustRemove(t, n, 0).Net.Regs); got != x.words {
+			t.Errorf("P20.1: %v: %d registers without a cycle", x, got)
+		}
+		if x.want == x.words {
+			x.want++
+		}
+		if got := len(mustRemove(t, n, 7).Net.Regs) - x.words; got != x.want {
+			t.Errorf("P20.1: %v: %d registers", x, got)
+		}
+	}
 }
 
 // TestP20_1OddWidth: a memory whose words no vectors have leads to the error of
@@ -265,15 +317,17 @@ func TestP20_1Sharing(t *testing.T) {
 	}
 	five := number(t, n, vec(32, 5))
 	zero := number(t, n, vec(8, 0))
-	for _, port := range []net.Port{p, {On: p.On, At: p.At, Val: zero}, {On: p.On, At: five, Val: p.Val}, {On: p.On, At: five, Val: zero}} {
-		n.Mems[0].Ports = append(n.Mems[0].Ports, port)
-		if got := count(); got != 3*5 {
+	for _, x := range []struct {
+		port net.Port
+		want int
+	}{
+		{p, 3}, {net.Port{On: p.On, At: p.At, Val: zero}, 2}, {net.Port{On: p.On, At: five, Val: p.Val}, 3},
+		{net.Port{On: p.On, At: five, Val: zero}, 2}, {net.Port{On: five, At: five, Val: zero}, 3}, {net.Port{On: five, At: p.At, Val: p.Val}, 4},
+	} {
+		n.Mems[0].Ports = append(n.Mems[0].Ports, x.port)
+		if got := count(); got != x.want*5 {
 			t.Errorf("P20.1: %d registers for %v", got, n.Mems[0].Ports)
 		}
-	}
-	n.Mems[0].Ports = append(n.Mems[0].Ports, net.Port{On: five, At: five, Val: zero})
-	if got := count(); got != 4*5 {
-		t.Errorf("P20.1: %d registers for %v", got, n.Mems[0].Ports)
 	}
 	pick := chooser(20, 4)
 	r := mustRemove(t, n, 5)

@@ -124,22 +124,25 @@ func TestP20_2Example(t *testing.T) {
 	}
 }
 
-// TestP20_2AllStates: small memories with several ports, from all states and with
-// all inputs in each of three steps.
+// TestP20_2AllStates: memories with several ports, from all states of two words and
+// with all inputs in each of three steps. The greater one has a history.
 func TestP20_2AllStates(t *testing.T) {
 	for _, ports := range []string{"01", "10", "11", "12", "20", "012", "210", "0101"} {
-		n := &net.Net{Mems: []net.Mem{{Name: "m", Width: 1, Words: 2}}}
-		x, y := input(t, n, 1), input(t, n, 1)
-		w := word(t, n, 0, y)
-		for _, c := range ports {
-			n.Mems[0].Ports = append(n.Mems[0].Ports, []net.Port{{On: x, At: y, Val: w}, {On: y, At: w, Val: x}, {On: w, At: x, Val: y}}[c-'0'])
-		}
-		n.Outs = []net.Out{{Name: "w", Node: w}, {Name: "v", Node: word(t, n, 0, w)}}
-		n.Asserts = []net.Assert{{Name: "p", On: x, Is: w}}
-		r := mustRemove(t, n, 3)
-		for all := range uint64(256) {
-			s := cyc.State{Words: [][]bv.Vec{{vec(1, all), vec(1, all>>1)}}}
-			mustAgree(t, n, r, s, []bv.Vec{vec(1, all>>2), vec(1, all>>3)}, []bv.Vec{vec(1, all>>4), vec(1, all>>5)}, []bv.Vec{vec(1, all>>6), vec(1, all>>7)})
+		for _, words := range []int{2, 64} {
+			n := &net.Net{Mems: []net.Mem{{Name: "m", Width: 1, Words: words}}}
+			x, y := input(t, n, 1), input(t, n, 1)
+			w := word(t, n, 0, y)
+			for _, c := range ports {
+				n.Mems[0].Ports = append(n.Mems[0].Ports, []net.Port{{On: x, At: y, Val: w}, {On: y, At: w, Val: x}, {On: w, At: x, Val: y}}[c-'0'])
+			}
+			n.Outs = []net.Out{{Name: "w", Node: w}, {Name: "v", Node: word(t, n, 0, w)}}
+			n.Asserts = []net.Assert{{Name: "p", On: x, Is: w}}
+			r := mustRemove(t, n, 3)
+			for all := range uint64(256) {
+				s := cyc.Zero(n)
+				s.Words[0][0], s.Words[0][1] = vec(1, all), vec(1, all>>1)
+				mustAgree(t, n, r, s, []bv.Vec{vec(1, all>>2), vec(1, all>>3)}, []bv.Vec{vec(1, all>>4), vec(1, all>>5)}, []bv.Vec{vec(1, all>>6), vec(1, all>>7)})
+			}
 		}
 	}
 }
@@ -147,33 +150,42 @@ func TestP20_2AllStates(t *testing.T) {
 // TestP20_2Order: the last port that writes counts, and writes of later cycles
 // count more than those of earlier ones.
 func TestP20_2Order(t *testing.T) {
-	n := &net.Net{Mems: []net.Mem{{Name: "m", Width: 8, Words: 1}}}
-	at := number(t, n, vec(1, 0))
-	on := []int{input(t, n, 1), input(t, n, 1), input(t, n, 1)}
-	for _, x := range on {
-		n.Mems[0].Ports = append(n.Mems[0].Ports, net.Port{On: x, At: at, Val: input(t, n, 8)})
-	}
-	n.Outs = []net.Out{{Node: word(t, n, 0, at)}}
-	r := mustRemove(t, n, 4)
-	for all := range 1 << 12 {
-		want := vec(8, 255)
-		var ins [][]bv.Vec
-		for step := range 4 {
-			list := make([]bv.Vec, 6)
-			for i := range 3 {
-				list[i], list[3+i] = vec(1, uint64(all>>(3*step+i))), vec(8, uint64(10*step+i))
-				if list[i].Num(1) == 1 {
-					want = list[3+i]
-				}
+	for _, words := range []int{1, 64} {
+		n := &net.Net{Mems: []net.Mem{{Name: "m", Width: 8, Words: words}}}
+		at := number(t, n, vec(1, 0))
+		on := []int{input(t, n, 1), input(t, n, 1), input(t, n, 1)}
+		for _, x := range on {
+			n.Mems[0].Ports = append(n.Mems[0].Ports, net.Port{On: x, At: at, Val: input(t, n, 8)})
+		}
+		n.Outs = []net.Out{{Node: word(t, n, 0, at)}}
+		r := mustRemove(t, n, 4)
+		for all := range 1 << 12 {
+			ins, want := ordered(all)
+			s := cyc.Zero(n)
+			s.Words[0][0] = vec(8, 255)
+			if o := mustAgree(t, n, r, s, ins...); o.Words[0][0] != want {
+				t.Fatalf("P19.2: %v, not %v", o, want)
 			}
-			ins = append(ins, list)
-		}
-		s := cyc.State{Words: [][]bv.Vec{{vec(8, 255)}}}
-		o := mustAgree(t, n, r, s, ins...)
-		if o.Words[0][0] != want {
-			t.Fatalf("P19.2: %v, not %v", o, want)
 		}
 	}
+}
+
+// ordered returns the inputs of four steps in which three ports write or not, as the
+// bits of a number say, and what the last of these writes leaves instead of 255.
+func ordered(all int) ([][]bv.Vec, bv.Vec) {
+	want := vec(8, 255)
+	var ins [][]bv.Vec
+	for step := range 4 {
+		list := make([]bv.Vec, 6)
+		for i := range 3 {
+			list[i], list[3+i] = vec(1, uint64(all>>(3*step+i))), vec(8, uint64(10*step+i))
+			if list[i].Num(1) == 1 {
+				want = list[3+i]
+			}
+		}
+		ins = append(ins, list)
+	}
+	return ins, want
 }
 
 // TestP20_2Constants: addresses, conditions and values that are constants, some of
@@ -280,7 +292,7 @@ func TestP20_2Sources(t *testing.T) {
 }
 
 // TestP20_2Small: there is room for all netlists of at most 24 nodes of at most 4
-// bits with memories of at most 2 bits, whatever the number of cycles.
+// bits with memories of at most 2 bits, whatever the numbers of ports and cycles.
 func TestP20_2Small(t *testing.T) {
 	pick := chooser(20, 12)
 	for range 100 {
@@ -292,7 +304,7 @@ func TestP20_2Small(t *testing.T) {
 			list = append(list, add(t, n, net.Node{Kind: net.Pick, Width: 1, Args: []int{any(), any()}}))
 		}
 		bits := slices.DeleteFunc(slices.Clone(list), func(i int) bool { return n.Nodes[i].Width != 1 })
-		for range 1 + pick(20) {
+		for range 1 + pick(20+580*pick(2)) {
 			n.Mems[0].Ports = append(n.Mems[0].Ports, net.Port{On: any(), At: any(), Val: bits[pick(len(bits))]})
 		}
 		for i := range list {
